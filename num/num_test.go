@@ -103,6 +103,7 @@ func TestLcm(t *testing.T) {
 	}{
 		{nil, 1, api.OK}, {[]int{1}, 1, api.OK}, {[]int{4, 6, 1}, 12, api.OK}, {[]int{512}, 512, api.OK}, {[]int{512, 256, 2}, 512, api.OK},
 		{[]int{513}, 0, api.ErrFull}, {[]int{511, 512}, 0, api.ErrFull}, {[]int{math.MaxInt, math.MaxInt}, 0, api.ErrFull},
+		{[]int{7, 0x6DB6DB6DB6DB6DB7}, 0, api.ErrFull}, {[]int{0x6DB6DB6DB6DB6DB7, 7}, 0, api.ErrFull}, // the product is 1 more than a multiple of 2^64
 		{[]int{512, 3}, 0, api.ErrFull}, {[]int{511, 2}, 0, api.ErrFull}, {[]int{16, 32}, 32, api.OK}, {[]int{23, 22}, 506, api.OK},
 		{[]int{0}, 0, api.ErrArg}, {[]int{-1}, 0, api.ErrArg}, {[]int{math.MinInt}, 0, api.ErrArg},
 		{[]int{1 << 20, 0}, 0, api.ErrArg}, {[]int{511, 512, -3}, 0, api.ErrArg}, {[]int{0, 1 << 20}, 0, api.ErrArg},
