@@ -133,7 +133,7 @@ func TestManyClasses(t *testing.T) {
 	product := big.NewInt(1)
 	var p piece
 	for i, m := range []int{509, 503, 499, 491, 487, 479, 467, 463, 461, 457, 449, 443, 439, 433, 431, 421, 419, 409, 401, 397, 389, 383, 379, 373} {
-		p = append(p, div(m, -(value % m), 1))
+		p = append(p, div(m, -(value%m), 1))
 		product.Mul(product, big.NewInt(int64(m)))
 		low := new(big.Int).Mod(big.NewInt(value), product)
 		back := new(big.Int).Sub(low, product)
