@@ -91,3 +91,8 @@ func Arrays(l []api.Array) []api.Array {
 func Program(p api.Program) api.Program {
 	return api.Program{Params: slices.Clone(p.Params), Arrays: Arrays(p.Arrays), Body: Stmts(p.Body)}
 }
+
+// Sched returns a copy of a schedule.
+func Sched(s api.Sched) api.Sched {
+	return api.Sched{Rows: Rows(s.Rows)}
+}
