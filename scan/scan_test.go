@@ -179,6 +179,7 @@ func TestScan(t *testing.T) {
 		{"array S; if { : false } { S = 1; } S = 2; for i = 3 to 2 { S = 3; }", "S0: (5)\nS1: (6)\nS2: (1 0)\n", []int{0}, "array S; for t1 = 6 to 6 { if { t1 : t1 - 6 = 0 } { S = 2; } }", []int{1}},
 		{"param n; array S; for i = 3 to 2 { S = 3; }", "S0: (0 1 0) (0 0 7)\n", []int{1, 2}, "param n; array S;", nil}, {"param n; array S;", "", nil, "param n; array S;", nil},
 		// Names that are in use.
+		{"array S; if { : false } { } else { for x1 = 0 to 1 { S = 1; } }", "S0: (1 0)\n", []int{0}, "array S; for t1 = 0 to 1 { for x2 = max(t1, 0) to min(t1, 1) { if { t1, x2 : t1 - x2 = 0 and 1 - x2 >= 0 and x2 >= 0 } { S = 1; } } }", []int{0}},
 		{"param x1; array t1; array t3[9]; for x3 = 0 to 1 { for t2 = 0 to 1 { t1 = t3[x3] + <t2>; } }", "S0: (0 1 0 0) (0 0 1 0)\n", []int{0, 0}, "param x1; array t1; array t3[9]; for t4 = 0 to 1 { for t5 = 0 to 1 { for x2 = max(t4, 0) to min(t4, 1) { for x4 = max(t5, 0) to min(t5, 1) { if { x1, t4, t5, x2, x4 : t5 - x4 = 0 and t4 - x2 = 0 and -x1 + 1000 >= 0 and -x2 + 1 >= 0 and -x4 + 1 >= 0 and x4 >= 0 and x2 >= 0 and x1 >= 0 } { t1 = t3[x2] + <x4>; } } } } }", []int{0}},
 	} {
 		p := parse(t, x.text)
