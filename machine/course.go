@@ -28,12 +28,8 @@ func (c Course) complete() Course {
 // Follow executes the loops and the tests of a program, and counts the steps. It returns the error with which the execution ends.
 func (m *Machine) Follow(c Course) (steps int, e api.Errno) {
 	defer func() {
-		switch s := recover().(type) {
-		case nil:
-		case Stop:
-			steps, e = 0, s.Code
-		default:
-			panic(s)
+		if code := stopped(recover()); code != api.OK {
+			steps, e = 0, code
 		}
 	}()
 	w := &walker{course: c.complete()}

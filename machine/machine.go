@@ -217,3 +217,54 @@ pieces:
 	}
 	return false
 }
+
+// stopped returns the error of a stop that was recovered, and OK if there was none. It panics again with everything else.
+func stopped(r any) api.Errno {
+	switch s := r.(type) {
+	case nil:
+		return api.OK
+	case Stop:
+		return s.Code
+	default:
+		panic(r)
+	}
+}
+
+// Use is a cell that an assignment accesses.
+type Use struct {
+	Array, Cell int
+	Write       bool
+}
+
+// Uses returns the cells that an assignment accesses at a point, its target first, or ErrRange if one of them does not exist.
+func (m *Machine) Uses(s api.Stmt, point []int) (l []Use, e api.Errno) {
+	defer func() {
+		if code := stopped(recover()); code != api.OK {
+			l, e = nil, code
+		}
+	}()
+	l = []Use{{s.Target.Array, m.Cell(s.Target, point), true}}
+	Value(s.Value, point, func(r api.Ref) int {
+		l = append(l, Use{r.Array, m.Cell(r, point), false})
+		return 0
+	})
+	return l, api.OK
+}
+
+// Assign performs an assignment at a point, or returns ErrRange if a cell does not exist.
+func (m *Machine) Assign(s api.Stmt, point []int, memory [][]int) (e api.Errno) {
+	defer func() {
+		if code := stopped(recover()); code != api.OK {
+			e = code
+		}
+	}()
+	array, cell, value := m.Evaluate(s, point, memory)
+	memory[array][cell] = value
+	return api.OK
+}
+
+// Evaluate returns the cell of the target of an assignment at a point, and the value that it gets. It stops the execution if a cell does not exist.
+func (m *Machine) Evaluate(s api.Stmt, point []int, memory [][]int) (array, cell, value int) {
+	value = Value(s.Value, point, func(r api.Ref) int { return memory[r.Array][m.Cell(r, point)] })
+	return s.Target.Array, m.Cell(s.Target, point), value
+}
