@@ -251,20 +251,13 @@ func (m *Machine) Uses(s api.Stmt, point []int) (l []Use, e api.Errno) {
 	return l, api.OK
 }
 
-// Assign performs an assignment at a point, or returns ErrRange if a cell does not exist.
-func (m *Machine) Assign(s api.Stmt, point []int, memory [][]int) (e api.Errno) {
+// Valued returns the cell of the target of an assignment at a point and the value that it gets, or ErrRange if a cell does not exist.
+func (m *Machine) Valued(s api.Stmt, point []int, memory [][]int) (array, cell, value int, e api.Errno) {
 	defer func() {
 		if code := stopped(recover()); code != api.OK {
-			e = code
+			array, cell, value, e = 0, 0, 0, code
 		}
 	}()
-	array, cell, value := m.Evaluate(s, point, memory)
-	memory[array][cell] = value
-	return api.OK
-}
-
-// Evaluate returns the cell of the target of an assignment at a point, and the value that it gets. It stops the execution if a cell does not exist.
-func (m *Machine) Evaluate(s api.Stmt, point []int, memory [][]int) (array, cell, value int) {
 	value = Value(s.Value, point, func(r api.Ref) int { return memory[r.Array][m.Cell(r, point)] })
-	return s.Target.Array, m.Cell(s.Target, point), value
+	return s.Target.Array, m.Cell(s.Target, point), value, api.OK
 }
