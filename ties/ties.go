@@ -245,3 +245,31 @@ func (c *Chain) Claims(k int) ([][]api.Cond, api.Errno) {
 	}
 	return r, api.OK
 }
+
+// Claim is a piece of B(Row) of a dependence before the cleaning. A schedule is legal if none of them has a point.
+type Claim struct {
+	Dep, Row, Piece int
+	Dim             int
+	Conds           []api.Cond
+}
+
+// Claims yields the claims of dependences and a schedule that have been checked, in order, up to the first error.
+func Claims(p api.Program, deps []api.Dep, s api.Sched) iter.Seq2[Claim, api.Errno] {
+	return func(yield func(Claim, api.Errno) bool) {
+		for i, d := range deps {
+			c := New(p, d, s)
+			for k := range c.Rows() + 1 {
+				l, e := c.Claims(k)
+				if e != api.OK {
+					yield(Claim{}, e)
+					return
+				}
+				for j, q := range l {
+					if !yield(Claim{i, k, j, d.Pairs.Dim, q}, api.OK) {
+						return
+					}
+				}
+			}
+		}
+	}
+}
