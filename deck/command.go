@@ -17,6 +17,7 @@ import (
 	"headland/settext"
 	"headland/source"
 	"strconv"
+	"strings"
 )
 
 // command executes a call, and returns its output.
@@ -170,11 +171,11 @@ func parsed(c call) api.Set {
 }
 
 func (d *deck) points(c call) string {
-	var l []int
+	var lines []string
 	for _, x := range got(point.Points(parsed(c))) {
-		l = append(l, x...)
+		lines = append(lines, line(digits(x...)...))
 	}
-	return line(digits(l...)...)
+	return strings.Join(lines, "")
 }
 
 func (d *deck) empty(c call) string {

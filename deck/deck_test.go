@@ -128,6 +128,18 @@ func TestOutput(t *testing.T) {
 	if out, e := deck.Play("---\n" + strings.Repeat("x\n", 2048) + "tidy"); out != lines || e != api.OK {
 		t.Errorf("a full output: %d bytes, %d", len(out), e)
 	}
+	// The lines of these points have 16380 bytes, and the next one has four.
+	full := "---\npoints { i : 0 <= i and i < 3498 }\npoints { i : i = 100 }\n"
+	for _, more := range []string{"", "points { i : false }", "tidy"} {
+		if out, e := deck.Play(full + more); len(out) != api.MaxText || !strings.HasSuffix(out, "\n3497\n100\n") || e != api.OK {
+			t.Errorf("the lines of points and %q: %d bytes, %d", more, len(out), e)
+		}
+	}
+	for _, script := range []string{full + "points { : true }", full + "x", "---\npoints { i : 0 <= i and i < 3499 }", "---\npoints { i : 0 <= i and i < 4096 }"} {
+		if out, e := deck.Play(script); out != "" || e != api.ErrFull {
+			t.Errorf("%q: %d bytes, %d", script, len(out), e)
+		}
+	}
 }
 
 // P33.1: the commands without orders.
@@ -250,7 +262,9 @@ func TestMachines(t *testing.T) {
 // P33.1: sets, the audit and its execution.
 func TestSets(t *testing.T) {
 	for command, want := range map[string]string{
-		"points { i, j : 0 <= i and i <= j and j < 2 }": "0 0 0 1 1 1\n", "points { i : -2 <= i and i < 1 }": "-2 -1 0\n", "points {i:i=3}": "3\n", "points { i : false }": "\n", "points { : true }": "\n", "points { i : i >= 0 }": "error 6\n", "points { i : 0 <= i and i <= 4096 }": "error 3\n", "points": "error 4\n", "points { i": "error 4\n", "points { i : j = 0 }": "error 4\n", "points { i : i = 2000000 }": "error 3\n", "points  { i : i = 0 }": "error 4\n",
+		"points { i, j : 0 <= i and i <= j and j < 2 }": "0 0\n0 1\n1 1\n", "points {i,j:0<=i and i<2and j=i}": "0 0\n1 1\n", "points { i : 1 <= i and i < 4 }": "1\n2\n3\n", "points { i : -2 <= i and i < 1 }": "-2\n-1\n0\n", "points {i:i=3}": "3\n", "points { i, j, k : i = 1 and j = 2 and -1 <= k and k <= 0 }": "1 2 -1\n1 2 0\n",
+		// Without points there is no line; a point without coordinates has an empty one.
+		"points { i : false }": "", "points { i : 2 i = 1 }": "", "points { i, j : 1 <= i and i <= 0 and j = 0 }": "", "points { : true }": "\n", "points { : false }": "", "points { i : i >= 0 }": "error 6\n", "points { i : 0 <= i and i <= 4096 }": "error 3\n", "points": "error 4\n", "points { i": "error 4\n", "points { i : j = 0 }": "error 4\n", "points { i : i = 2000000 }": "error 3\n", "points  { i : i = 0 }": "error 4\n",
 		"empty { i : i >= 0 }": "false\n", "empty { i : 2 i = 1 }": "true\n", "empty { : false }": "true\n", "empty { : true }": "false\n", "empty": "error 4\n", "empty true": "error 4\n", "empty { i, j : 600 i = 601 j + 1 and 0 <= i and i <= 700 }": "error 3\n",
 		"audit": "0\n", "audit 1": "error 4\n", "same 1 3": "true\n", "same -1 0": "true\n", "same": "error 4\n", "same 1": "error 2\n", "same 1 1001": "error 6\n", "same 1 1 1": "error 2\n",
 	} {
